@@ -8,15 +8,7 @@ const (
 
 // ShapeOk reports whether numbers are a shape.
 func ShapeOk(shape []int) bool {
-	if len(shape) > MaxAxes {
-		return false
-	}
-	for _, size := range shape {
-		if size < 1 || size > MaxAxis {
-			return false
-		}
-	}
-	return true
+	return len(shape) <= MaxAxes && allBetween(shape, 1, MaxAxis)
 }
 
 // CountOf returns how many places a shape has, or -1.
@@ -63,12 +55,7 @@ func PlaceAt(shape []int, index int) ([]int, bool) {
 	if index < 0 || index >= CountOf(shape) {
 		return nil, false
 	}
-	place := make([]int, len(shape))
-	for axis := len(shape) - 1; axis >= 0; axis-- {
-		place[axis] = index % shape[axis]
-		index /= shape[axis]
-	}
-	return place, true
+	return countersAt(shape, index), true
 }
 
 // JoinShapes returns the shape over which two are spread.
@@ -119,17 +106,7 @@ func SpreadIndex(shape []int, over []int, index int) int {
 
 // TurnOk reports whether numbers are a turn of so many axes.
 func TurnOk(turn []int, axes int) bool {
-	if axes > MaxAxes || len(turn) != axes {
-		return false
-	}
-	told := make([]bool, axes)
-	for _, axis := range turn {
-		if axis < 0 || axis >= axes || told[axis] {
-			return false
-		}
-		told[axis] = true
-	}
-	return true
+	return axes <= MaxAxes && len(turn) == axes && differentOk(turn, axes)
 }
 
 // TurnShape returns a shape with its axes turned.
@@ -137,11 +114,7 @@ func TurnShape(shape []int, turn []int) ([]int, bool) {
 	if !ShapeOk(shape) || !TurnOk(turn, len(shape)) {
 		return nil, false
 	}
-	turned := make([]int, len(turn))
-	for i, axis := range turn {
-		turned[i] = shape[axis]
-	}
-	return turned, true
+	return pickNums(shape, turn), true
 }
 
 // BackTurn returns the turn that turns back.
@@ -167,6 +140,52 @@ func placeOk(shape []int, place []int) bool {
 		}
 	}
 	return true
+}
+
+// allBetween reports whether no number of a list is below the least one or above the most.
+func allBetween(nums []int, least int, most int) bool {
+	for _, num := range nums {
+		if num < least || num > most {
+			return false
+		}
+	}
+	return true
+}
+
+// countersAt returns what counters of sizes show at an index, the last one going first.
+func countersAt(sizes []int, index int) []int {
+	counters := make([]int, len(sizes))
+	for i := len(sizes) - 1; i >= 0; i-- {
+		counters[i] = index % sizes[i]
+		index /= sizes[i]
+	}
+	return counters
+}
+
+// differentOk reports whether numbers are different indexes of so many elements, of which there are no more than some limit.
+func differentOk(indexes []int, many int) bool {
+	told := make([]bool, many)
+	for _, index := range indexes {
+		if !indexOk(index, many) || told[index] {
+			return false
+		}
+		told[index] = true
+	}
+	return true
+}
+
+// indexOk reports whether a number is an index of so many elements.
+func indexOk(index int, many int) bool {
+	return index >= 0 && index < many
+}
+
+// pickNums returns those numbers of a list that indexes tell, in their order.
+func pickNums(list []int, indexes []int) []int {
+	picked := make([]int, len(indexes))
+	for i, index := range indexes {
+		picked[i] = list[index]
+	}
+	return picked
 }
 
 // sizeBefore returns the size of the axis so many ahead of the end of a shape, 1 if it has none there.
