@@ -1069,6 +1069,32 @@ func TestEachNodeHasItsShape(t *testing.T) {
 	}
 }
 
+// spoil puts none to two odd numbers into nodes of an expression, which may be none then.
+func (d *dice) spoil(e impl.Expr, odd []int) {
+	for range d.below(3) {
+		x := &e.Nodes[d.below(len(e.Nodes))]
+		num := odd[d.below(len(odd))]
+		switch d.below(6) {
+		case 0:
+			x.Op = num
+		case 1:
+			x.A = num
+		case 2:
+			x.B = num
+		case 3:
+			x.List = append(copyInts(x.List), num)
+		case 4:
+			if len(x.List) > 0 {
+				x.List = with(x.List, d.below(len(x.List)), num)
+			}
+		case 5:
+			if len(x.List) > 0 {
+				x.List = x.List[1:]
+			}
+		}
+	}
+}
+
 // Whatever nodes are told, good or bad, there is an answer, and it is that of the words of the document.
 func TestAnyNodes(t *testing.T) {
 	d := &dice{state: 4}
@@ -1076,28 +1102,7 @@ func TestAnyNodes(t *testing.T) {
 	some := 0
 	for range 20000 {
 		e := d.expr(2 + d.below(6))
-		for range d.below(3) {
-			x := &e.Nodes[d.below(len(e.Nodes))]
-			num := odd[d.below(len(odd))]
-			switch d.below(6) {
-			case 0:
-				x.Op = num
-			case 1:
-				x.A = num
-			case 2:
-				x.B = num
-			case 3:
-				x.List = append(copyInts(x.List), num)
-			case 4:
-				if len(x.List) > 0 {
-					x.List = with(x.List, d.below(len(x.List)), num)
-				}
-			case 5:
-				if len(x.List) > 0 {
-					x.List = x.List[1:]
-				}
-			}
-		}
+		d.spoil(e, odd)
 		if checkExpr(t, e) {
 			some++
 			checkValues(t, e, inputsFor(e)[1])
