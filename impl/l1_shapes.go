@@ -16,11 +16,7 @@ func CountOf(shape []int) int {
 	if !ShapeOk(shape) {
 		return -1
 	}
-	count := 1
-	for _, size := range shape {
-		count *= size
-	}
-	return count
+	return allTimes(shape)
 }
 
 // StridesOf returns by how much the index grows along each axis.
@@ -42,11 +38,7 @@ func IndexAt(shape []int, place []int) int {
 	if !placeOk(shape, place) {
 		return -1
 	}
-	index := 0
-	for axis, size := range shape {
-		index = index*size + place[axis]
-	}
-	return index
+	return counterIndex(shape, place)
 }
 
 // PlaceAt returns the place of an index.
@@ -160,6 +152,24 @@ func countersAt(sizes []int, index int) []int {
 		index /= sizes[i]
 	}
 	return counters
+}
+
+// counterIndex returns the index at which counters of sizes show numbers.
+func counterIndex(sizes []int, counters []int) int {
+	index := 0
+	for i, size := range sizes {
+		index = index*size + counters[i]
+	}
+	return index
+}
+
+// allTimes returns the product of all numbers of a list.
+func allTimes(nums []int) int {
+	product := 1
+	for _, num := range nums {
+		product *= num
+	}
+	return product
 }
 
 // differentOk reports whether numbers are different indexes of so many elements, of which there are no more than some limit.
